@@ -1,0 +1,1 @@
+"""A row of bytes in pieces; the functions are in piecerow.pieces."""

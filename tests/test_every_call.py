@@ -1,0 +1,136 @@
+"""What holds of every call: the refusals, and how a call treats what it is handed."""
+import contextlib
+import copy
+import io
+import unittest
+
+from piecerow.pieces import length, take
+
+MOST = 18446744073709551615
+
+
+def take_with(begin, n):
+    return lambda pieces: take(begin, n, pieces)
+
+
+CALLS = {
+    "length": length,
+    "take within the row": take_with(1, 3),
+    "take all": take_with(0, MOST),
+    "take none": take_with(0, 0),
+    "take none, beyond the row": take_with(MOST, 0),
+    "take beyond the row": take_with(MOST, MOST),
+}
+
+REFUSED = {
+    "17 pieces": [[k] for k in range(17)],
+    "17 empty pieces": [[] for k in range(17)],
+    "17 pieces, one with bytes": [[] for k in range(16)] + [[1, 2, 3]],
+    "20 pieces": [[k, k] for k in range(20)],
+    "40 pieces": [[k] for k in range(40)],
+    "a piece of 65537 bytes": [[7] * 65537],
+    "a piece of 66000 bytes": [[7] * 66000],
+    "a too long piece first": [[7] * 65537, [1], []],
+    "a too long piece last": [[], [1], [7] * 65537],
+    "a too long piece as the 16th": [[1] for k in range(15)] + [[7] * 65537],
+    "too many and too long": [[1] for k in range(16)] + [[7] * 65537],
+}
+
+ANSWERED = {
+    "no piece": [],
+    "16 pieces": [[k, k + 1] for k in range(16)],
+    "16 empty pieces": [[] for k in range(16)],
+    "a piece of 65536 bytes": [[7] * 65536],
+    "several pieces of 65536 bytes": [[7] * 65536, [], [8] * 65536],
+    "one piece": [[1, 2, 3, 4, 5]],
+    "empty pieces between": [[], [1, 2], [], [3], [4, 5], []],
+}
+
+
+def refuse_change(self, *args, **kwargs):
+    raise AssertionError("what was handed in is changed")
+
+
+class Fixed(list):
+    """A list that fails the test at any change, even at one that is undone later."""
+    append = extend = insert = pop = remove = clear = sort = reverse = refuse_change
+    __setitem__ = __delitem__ = __iadd__ = __imul__ = refuse_change
+
+
+class EveryCallTest(unittest.TestCase):
+    def each(self, check, *tables):
+        for name, call in CALLS.items():
+            for table in tables:
+                for row_name, pieces in table.items():
+                    with self.subTest(call=name, pieces=row_name):
+                        check(call, pieces)
+
+    def test_refused_with_minus_two_alone(self):
+        def check(call, pieces):
+            self.assertEqual(call(pieces), [-2])
+        self.each(check, REFUSED)
+
+    def test_answered_up_to_the_bounds(self):
+        def check(call, pieces):
+            self.assertGreaterEqual(call(pieces)[0], 0)
+        self.each(check, ANSWERED)
+
+    def test_a_list_of_whole_numbers_is_given_back(self):
+        def check(call, pieces):
+            answer = call(pieces)
+            self.assertIs(type(answer), list)
+            self.assertEqual({type(number) for number in answer}, {int})
+        self.each(check, REFUSED, ANSWERED)
+
+    def test_what_is_handed_in_stays(self):
+        def check(call, pieces):
+            before = copy.deepcopy(pieces)
+            call(pieces)
+            self.assertTrue(pieces == before)
+        self.each(check, REFUSED, ANSWERED)
+
+    def test_what_is_handed_in_is_not_changed_for_a_while(self):
+        def check(call, pieces):
+            call(Fixed([Fixed(piece) for piece in pieces]))
+        self.each(check, REFUSED, ANSWERED)
+
+    def test_the_same_call_twice(self):
+        def check(call, pieces):
+            self.assertTrue(call(pieces) == call(pieces))
+        self.each(check, REFUSED, ANSWERED)
+
+    def test_the_answer_is_a_list_of_its_own(self):
+        def check(call, pieces):
+            before = copy.deepcopy(pieces)
+            answer = call(pieces)
+            kept = list(answer)
+            answer[0] = 1000
+            answer.append(1000)
+            self.assertTrue(pieces == before)
+            self.assertTrue(call(pieces) == kept)
+        self.each(check, REFUSED, ANSWERED)
+
+    def test_calls_between_leave_no_trace(self):
+        pieces = ANSWERED["empty pieces between"]
+        first = {name: call(pieces) for name, call in CALLS.items()}
+        self.each(lambda call, others: call(others), REFUSED, ANSWERED)
+        again = {name: call(pieces) for name, call in CALLS.items()}
+        self.assertEqual(again, first)
+
+    def test_pieces_changed_by_the_caller_are_seen_anew(self):
+        pieces = [[1, 2], [3]]
+        self.assertEqual(length(pieces), [3])
+        self.assertEqual(take(0, 9, pieces), [3, 1, 2, 3])
+        pieces[0].append(9)
+        self.assertEqual(length(pieces), [4])
+        self.assertEqual(take(0, 9, pieces), [4, 1, 2, 9, 3])
+
+    def test_nothing_is_printed(self):
+        out, err = io.StringIO(), io.StringIO()
+        with contextlib.redirect_stdout(out), contextlib.redirect_stderr(err):
+            self.each(lambda call, pieces: call(pieces), REFUSED, ANSWERED)
+        self.assertEqual(out.getvalue() + err.getvalue(), "")
+
+
+if __name__ == "__main__":
+    unittest.main()
