@@ -22,6 +22,21 @@ def row_of(pieces):
     return row
 
 
+def stretch_of(begin, n, row):
+    """The bytes of row from place begin on, n of them or as many as there are, as a new list."""
+    # begin and n may be far beyond any row, so both ends are brought into it first.
+    stop = min(begin + n, len(row))
+    start = min(begin, stop)
+    return row[start:stop]
+
+
+def put_into(at, given, row):
+    """[how many of given have room from place at on, then row's bytes with these in their places]."""
+    start = min(at, len(row))
+    count = min(len(given), len(row) - start)
+    return [count] + row[:start] + given[:count] + row[start + count:]
+
+
 def length(pieces):
     """[how many bytes the row has], or [-2]."""
     if is_refused(pieces):
@@ -36,9 +51,22 @@ def take(begin, n, pieces):
     """[how many bytes, then the bytes from place begin on, at most n], or [-2]."""
     if is_refused(pieces):
         return [-2]
-    row = row_of(pieces)
-    # begin and n may be far beyond any row, so both ends are brought into it first.
-    stop = min(begin + n, len(row))
-    start = min(begin, stop)
-    taken = row[start:stop]
+    taken = stretch_of(begin, n, row_of(pieces))
     return [len(taken)] + taken
+
+
+def put(at, given, rooms):
+    """[how many bytes were put from place at on, then all the rooms' bytes], or [-2]."""
+    if is_refused(rooms):
+        return [-2]
+    return put_into(at, given, row_of(rooms))
+
+
+def move(begin, to, n, rooms):
+    """[how many bytes were moved, then all the rooms' bytes], or [-2]."""
+    if is_refused(rooms):
+        return [-2]
+    row = row_of(rooms)
+    # A copy, so that the bytes count as they were even where the two stretches share places.
+    aside = stretch_of(begin, n, row)
+    return put_into(to, aside, row)

@@ -4,13 +4,31 @@ import copy
 import io
 import unittest
 
-from piecerow.pieces import length, take
+from piecerow.pieces import length, move, put, take
 
 MOST = 18446744073709551615
 
 
+def refuse_change(self, *args, **kwargs):
+    raise AssertionError("what was handed in is changed")
+
+
+class Fixed(list):
+    """A list that fails the test at any change, even at one that is undone later."""
+    append = extend = insert = pop = remove = clear = sort = reverse = refuse_change
+    __setitem__ = __delitem__ = __iadd__ = __imul__ = refuse_change
+
+
 def take_with(begin, n):
     return lambda pieces: take(begin, n, pieces)
+
+
+def put_with(at, given):
+    return lambda rooms: put(at, Fixed(given), rooms)
+
+
+def move_with(begin, to, n):
+    return lambda rooms: move(begin, to, n, rooms)
 
 
 CALLS = {
@@ -20,6 +38,17 @@ CALLS = {
     "take none": take_with(0, 0),
     "take none, beyond the row": take_with(MOST, 0),
     "take beyond the row": take_with(MOST, MOST),
+    "put within the row": put_with(1, [101, 102, 103]),
+    "put the longest": put_with(0, [9] * 66000),
+    "put none": put_with(0, []),
+    "put none, beyond the row": put_with(MOST, []),
+    "put beyond the row": put_with(MOST, [1, 2]),
+    "move back": move_with(2, 1, 3),
+    "move on": move_with(1, 2, 3),
+    "move all": move_with(0, 0, MOST),
+    "move none": move_with(0, 1, 0),
+    "move from beyond the row": move_with(MOST, 0, 1),
+    "move to beyond the row": move_with(0, MOST, 1),
 }
 
 REFUSED = {
@@ -45,16 +74,6 @@ ANSWERED = {
     "one piece": [[1, 2, 3, 4, 5]],
     "empty pieces between": [[], [1, 2], [], [3], [4, 5], []],
 }
-
-
-def refuse_change(self, *args, **kwargs):
-    raise AssertionError("what was handed in is changed")
-
-
-class Fixed(list):
-    """A list that fails the test at any change, even at one that is undone later."""
-    append = extend = insert = pop = remove = clear = sort = reverse = refuse_change
-    __setitem__ = __delitem__ = __iadd__ = __imul__ = refuse_change
 
 
 class EveryCallTest(unittest.TestCase):
@@ -121,9 +140,13 @@ class EveryCallTest(unittest.TestCase):
         pieces = [[1, 2], [3]]
         self.assertEqual(length(pieces), [3])
         self.assertEqual(take(0, 9, pieces), [3, 1, 2, 3])
+        self.assertEqual(put(1, [7], pieces), [1, 1, 7, 3])
+        self.assertEqual(move(0, 1, 2, pieces), [2, 1, 1, 2])
         pieces[0].append(9)
         self.assertEqual(length(pieces), [4])
         self.assertEqual(take(0, 9, pieces), [4, 1, 2, 9, 3])
+        self.assertEqual(put(1, [7], pieces), [1, 1, 7, 9, 3])
+        self.assertEqual(move(0, 1, 2, pieces), [2, 1, 1, 2, 3])
 
     def test_nothing_is_printed(self):
         out, err = io.StringIO(), io.StringIO()
