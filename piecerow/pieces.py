@@ -2,6 +2,7 @@
 
 MOST_PIECES = 16
 MOST_BYTES = 65536
+LONGEST_WORD = 64
 
 
 def is_refused(pieces):
@@ -37,6 +38,25 @@ def put_into(at, given, row):
     return [count] + row[:start] + given[:count] + row[start + count:]
 
 
+def place_of(begin, word, row):
+    """The first place in row, not before begin, where word stands, or -1."""
+    size = len(word)
+    for place in range(begin, len(row) - size + 1):
+        if row[place:place + size] == word:
+            return place
+    return -1
+
+
+def order_of(first, second):
+    """0 if both rows are alike, -1 if the first comes before, else 1."""
+    if first == second:
+        return 0
+    # Lists are ordered as rows are here: by the first place that differs, or else the shorter before.
+    if first < second:
+        return -1
+    return 1
+
+
 def length(pieces):
     """[how many bytes the row has], or [-2]."""
     if is_refused(pieces):
@@ -70,3 +90,20 @@ def move(begin, to, n, rooms):
     # A copy, so that the bytes count as they were even where the two stretches share places.
     aside = stretch_of(begin, n, row)
     return put_into(to, aside, row)
+
+
+def find(begin, word, pieces):
+    """[the first place, not before begin, where word stands in the row], [-1] if there's none, or [-2]."""
+    if is_refused(pieces) or not 1 <= len(word) <= LONGEST_WORD:
+        return [-2]
+    return [place_of(begin, word, row_of(pieces))]
+
+
+def compare(k, pieces):
+    """[0, -1 or 1: how the row of the first k pieces stands to the row of the others], or [-2]."""
+    cut = min(k, len(pieces))
+    first = pieces[:cut]
+    second = pieces[cut:]
+    if is_refused(first) or is_refused(second):
+        return [-2]
+    return [order_of(row_of(first), row_of(second))]

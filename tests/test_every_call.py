@@ -4,7 +4,7 @@ import copy
 import io
 import unittest
 
-from piecerow.pieces import length, move, put, take
+from piecerow.pieces import compare, find, length, move, put, take
 
 MOST = 18446744073709551615
 
@@ -31,6 +31,15 @@ def move_with(begin, to, n):
     return lambda rooms: move(begin, to, n, rooms)
 
 
+def find_with(begin, word):
+    return lambda pieces: find(begin, Fixed(word), pieces)
+
+
+def compare_with(k):
+    return lambda pieces: compare(k, pieces)
+
+
+# The tables below tell what is refused of one row, so compare stands here with all pieces in one of its two.
 CALLS = {
     "length": length,
     "take within the row": take_with(1, 3),
@@ -49,6 +58,12 @@ CALLS = {
     "move none": move_with(0, 1, 0),
     "move from beyond the row": move_with(MOST, 0, 1),
     "move to beyond the row": move_with(0, MOST, 1),
+    "find within the row": find_with(0, [2, 3]),
+    "find the longest": find_with(0, [7] * 64),
+    "find what is not there": find_with(0, [200]),
+    "find beyond the row": find_with(MOST, [1]),
+    "compare, all in the first row": compare_with(MOST),
+    "compare, all in the second row": compare_with(0),
 }
 
 REFUSED = {
@@ -91,7 +106,7 @@ class EveryCallTest(unittest.TestCase):
 
     def test_answered_up_to_the_bounds(self):
         def check(call, pieces):
-            self.assertGreaterEqual(call(pieces)[0], 0)
+            self.assertGreaterEqual(call(pieces)[0], -1)
         self.each(check, ANSWERED)
 
     def test_a_list_of_whole_numbers_is_given_back(self):
@@ -142,11 +157,15 @@ class EveryCallTest(unittest.TestCase):
         self.assertEqual(take(0, 9, pieces), [3, 1, 2, 3])
         self.assertEqual(put(1, [7], pieces), [1, 1, 7, 3])
         self.assertEqual(move(0, 1, 2, pieces), [2, 1, 1, 2])
+        self.assertEqual(find(0, [3], pieces), [2])
+        self.assertEqual(compare(1, [[1, 2]] + pieces), [-1])
         pieces[0].append(9)
         self.assertEqual(length(pieces), [4])
         self.assertEqual(take(0, 9, pieces), [4, 1, 2, 9, 3])
         self.assertEqual(put(1, [7], pieces), [1, 1, 7, 9, 3])
         self.assertEqual(move(0, 1, 2, pieces), [2, 1, 1, 2, 3])
+        self.assertEqual(find(0, [3], pieces), [3])
+        self.assertEqual(compare(1, [[1, 2, 4]] + pieces), [-1])
 
     def test_nothing_is_printed(self):
         out, err = io.StringIO(), io.StringIO()
