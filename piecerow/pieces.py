@@ -3,6 +3,7 @@
 MOST_PIECES = 16
 MOST_BYTES = 65536
 LONGEST_WORD = 64
+LOWEST_16_BITS = 65535
 
 
 def is_refused(pieces):
@@ -57,6 +58,13 @@ def order_of(first, second):
     return 1
 
 
+def folded(total):
+    """A number of at most 16 bits: what stands above these is added to them as long as there is such."""
+    while total > LOWEST_16_BITS:
+        total = (total >> 16) + (total & LOWEST_16_BITS)
+    return total
+
+
 def length(pieces):
     """[how many bytes the row has], or [-2]."""
     if is_refused(pieces):
@@ -107,3 +115,12 @@ def compare(k, pieces):
     if is_refused(first) or is_refused(second):
         return [-2]
     return [order_of(row_of(first), row_of(second))]
+
+
+def sum_of(pieces):
+    """[the row's pairs of bytes added up, with what goes beyond 16 bits added in again], or [-2]."""
+    if is_refused(pieces):
+        return [-2]
+    row = row_of(pieces)
+    # The 0 that a last byte alone is paired with adds nothing, so it need not be there.
+    return [folded(256 * sum(row[0::2]) + sum(row[1::2]))]

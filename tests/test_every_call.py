@@ -4,7 +4,7 @@ import copy
 import io
 import unittest
 
-from piecerow.pieces import compare, find, length, move, put, take
+from piecerow.pieces import compare, find, length, move, put, sum_of, take
 
 MOST = 18446744073709551615
 
@@ -64,6 +64,7 @@ CALLS = {
     "find beyond the row": find_with(MOST, [1]),
     "compare, all in the first row": compare_with(MOST),
     "compare, all in the second row": compare_with(0),
+    "sum_of": sum_of,
 }
 
 REFUSED = {
@@ -159,6 +160,7 @@ class EveryCallTest(unittest.TestCase):
         self.assertEqual(move(0, 1, 2, pieces), [2, 1, 1, 2])
         self.assertEqual(find(0, [3], pieces), [2])
         self.assertEqual(compare(1, [[1, 2]] + pieces), [-1])
+        self.assertEqual(sum_of(pieces), [1026])
         pieces[0].append(9)
         self.assertEqual(length(pieces), [4])
         self.assertEqual(take(0, 9, pieces), [4, 1, 2, 9, 3])
@@ -166,6 +168,7 @@ class EveryCallTest(unittest.TestCase):
         self.assertEqual(move(0, 1, 2, pieces), [2, 1, 1, 2, 3])
         self.assertEqual(find(0, [3], pieces), [3])
         self.assertEqual(compare(1, [[1, 2, 4]] + pieces), [-1])
+        self.assertEqual(sum_of(pieces), [2565])
 
     def test_nothing_is_printed(self):
         out, err = io.StringIO(), io.StringIO()
